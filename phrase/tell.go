@@ -1,4 +1,4 @@
-package expr
+package phrase
 
 import (
 	"starling/api"
@@ -63,38 +63,31 @@ type sign string
 // kid by its place; it stands in brackets, if it binds less than least.
 type kid struct{ place, least int }
 
-// phrase: the tokens of an expression, and how much they bind.
-type phrase struct {
+// told: the tokens of an expression, and how much they bind.
+type told struct {
 	binds  int
 	tokens []api.Token
 }
 
-// Tokens tells the tokens of an expression.
-func Tokens(e []api.Node) ([]api.Token, api.Errno) {
-	if err := Check(e); err != api.OK {
-		return nil, err
-	}
-	// No error is left, and one phrase: that of the root.
-	phrases, _ := walk.Up(e, phraseOf)
-	tokens := phrases[0].tokens
-	if len(tokens) > api.MaxTokens {
-		return nil, api.ErrMany
-	}
-	return tokens, api.OK
+// Tell tells the tokens of a right expression.
+func Tell(e []api.Node) []api.Token {
+	// No error is there, and one of them is left: that of the root.
+	all, _ := walk.Up(e, toldOf)
+	return all[0].tokens
 }
 
-// phraseOf tells the phrase of a node by those of its kids.
-func phraseOf(n api.Node, kids []phrase) (phrase, api.Errno) {
+// toldOf tells the tokens of a node by those of its kids.
+func toldOf(n api.Node, kids []told) (told, api.Errno) {
 	binds, parts := partsOf(n)
 	var tokens []api.Token
 	for _, p := range parts {
 		tokens = append(tokens, tokensOf(p, kids)...)
 	}
-	return phrase{binds, tokens}, api.OK
+	return told{binds, tokens}, api.OK
 }
 
 // tokensOf tells the tokens of a part of a node with these kids.
-func tokensOf(p part, kids []phrase) []api.Token {
+func tokensOf(p part, kids []told) []api.Token {
 	switch p := p.(type) {
 	case word:
 		return []api.Token{{Kind: api.Word, S: string(p)}}
@@ -108,13 +101,13 @@ func tokensOf(p part, kids []phrase) []api.Token {
 	return nil
 }
 
-// atLeast tells the tokens of a phrase where something must bind that much.
-func (p phrase) atLeast(least int) []api.Token {
-	if p.binds >= least {
-		return p.tokens
+// atLeast tells the tokens of an expression where something must bind that much.
+func (t told) atLeast(least int) []api.Token {
+	if t.binds >= least {
+		return t.tokens
 	}
 	tokens := []api.Token{{Kind: api.Sign, S: opened}}
-	tokens = append(tokens, p.tokens...)
+	tokens = append(tokens, t.tokens...)
 	return append(tokens, api.Token{Kind: api.Sign, S: closed})
 }
 

@@ -1,8 +1,10 @@
-package expr
+// Package phrase: expressions as tokens, of whatever size: how they are read, and how they are told.
+package phrase
 
 import (
 	"starling/api"
 	"starling/lex"
+	"starling/names"
 )
 
 // gaveUp is what a reader panics with, where tokens are no expression.
@@ -14,29 +16,22 @@ type reader struct {
 	nodes []api.Node
 }
 
-// Parse tells the expression of tokens.
-func Parse(l []api.Token) ([]api.Node, api.Errno) {
+// Check tells what is wrong with tokens that are to be read, whatever they say.
+func Check(l []api.Token) api.Errno {
 	if len(l) > api.MaxTokens {
-		return nil, api.ErrMany
+		return api.ErrMany
 	}
 	for _, token := range l {
 		// One token alone is never longer than a text of commands may be: so each error of Print is one of the token's own.
 		if _, err := lex.Print([]api.Token{token}); err != api.OK {
-			return nil, err
+			return err
 		}
 	}
-	e, ok := read(l)
-	if !ok {
-		return nil, api.ErrForm
-	}
-	if err := Check(e); err != api.OK {
-		return nil, err
-	}
-	return e, api.OK
+	return api.OK
 }
 
-// read tells the nodes of right tokens, if all of them are one expression, of whatever size.
-func read(l []api.Token) (e []api.Node, ok bool) {
+// Read tells the nodes of right tokens, if all of them are one expression, of whatever size.
+func Read(l []api.Token) (e []api.Node, ok bool) {
 	defer func() {
 		if caught := recover(); caught != nil {
 			// What is no gaveUp is a fault of the program, and goes on as a panic.
@@ -211,7 +206,7 @@ func leafOf(t api.Token) api.Node {
 		return api.Node{Op: api.OpLit, V: api.Value{Kind: api.Blob, S: t.S}}
 	case t.Kind == api.Word && t.S == nullWord:
 		return api.Node{Op: api.OpLit}
-	case t.Kind == api.Word && isName(t.S):
+	case t.Kind == api.Word && names.Is(t.S):
 		return api.Node{Op: api.OpCol, Name: t.S}
 	}
 	panic(gaveUp{})
