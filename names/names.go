@@ -13,6 +13,15 @@ func Is(s string) bool {
 	return err == api.OK && !lex.Reserved(s)
 }
 
+// Of tells the names of columns.
+func Of(cols []api.Column) []string {
+	var l []string
+	for _, c := range cols {
+		l = append(l, c.Name)
+	}
+	return l
+}
+
 // Seen: names that came already.
 type Seen map[string]struct{}
 

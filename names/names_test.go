@@ -5,6 +5,8 @@ import (
 	"slices"
 	"strings"
 	"testing"
+
+	"starling/api"
 )
 
 // Q1: a name is a word in small letters, not too long, and not reserved.
@@ -33,5 +35,16 @@ func TestAdd(t *testing.T) {
 	}
 	if want := []string{"a", "b", "", "ab", "A"}; !slices.Equal(new, want) {
 		t.Errorf("%q; want %q", new, want)
+	}
+}
+
+// S3 to S5, T3: columns are told by their names, in their order.
+func TestOf(t *testing.T) {
+	cols := []api.Column{{Name: "b", Kind: api.Int}, {Name: "a", Unique: true}, {Name: "b"}, {}}
+	if got, want := Of(cols), []string{"b", "a", "b", ""}; !slices.Equal(got, want) {
+		t.Errorf("%q; want %q", got, want)
+	}
+	if got := Of(nil); len(got) != 0 {
+		t.Errorf("%q", got)
 	}
 }
