@@ -4,22 +4,14 @@ import (
 	"slices"
 
 	"starling/api"
+	"starling/twin"
 )
 
 // runner runs a command on tables; their memory is its own, so that it may change them where they stand.
 type runner struct{ api.DB }
 
 func runnerOf(d api.DB) *runner {
-	r := &runner{api.DB{Next: d.Next}}
-	for _, t := range d.Tables {
-		own := api.Table{Schema: t.Schema}
-		own.Schema.Cols = slices.Clone(t.Schema.Cols)
-		for _, e := range t.Rows {
-			own.Rows = append(own.Rows, api.Entry{Id: e.Id, Row: slices.Clone(e.Row)})
-		}
-		r.Tables = append(r.Tables, own)
-	}
-	return r
+	return &runner{twin.DB(d)}
 }
 
 // run does what a right command says, and tells the rows that it tells.
